@@ -120,7 +120,6 @@ func overlap(a, b stretch) bool {
 // askApart fails when a stretch of the answer lies in one of the argument, or when two lists of the answer meet.
 func askApart(t *testing.T, answer, argument impl.Graph) {
 	t.Helper()
-	lists := listsOf("answer", answer)
 	given := append(listsOf("argument", argument), textsOf("argument", argument)...)
 	for _, a := range append(listsOf("answer", answer), textsOf("answer", answer)...) {
 		for _, b := range given {
@@ -129,6 +128,13 @@ func askApart(t *testing.T, answer, argument impl.Graph) {
 			}
 		}
 	}
+	askListsApart(t, answer)
+}
+
+// askListsApart fails when two lists of one graph meet.
+func askListsApart(t *testing.T, g impl.Graph) {
+	t.Helper()
+	lists := listsOf("answer", g)
 	for i, a := range lists {
 		for _, b := range lists[:i] {
 			if overlap(a, b) {
