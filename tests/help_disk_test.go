@@ -125,10 +125,13 @@ type wrongDisk struct {
 	disk impl.Disk
 }
 
-func wrongDisks() []wrongDisk {
+func wrongDisks() []wrongDisk { return wrongDisksFrom(waitingMany) }
+
+// wrongDisksFrom makes a disk wrong in each way that there is; right is a disk with so many writes waiting.
+func wrongDisksFrom(right func(waiting int) impl.Disk) []wrongDisk {
 	out := []wrongDisk{{"no disk", impl.Disk{}}, {"no blocks, but a write", impl.Disk{Waiting: []impl.Write{write(0, full(1))}}}}
 	add := func(name string, waiting int, change func(d *impl.Disk)) {
-		d := waitingMany(waiting)
+		d := right(waiting)
 		change(&d)
 		out = append(out, wrongDisk{name, d})
 	}
